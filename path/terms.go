@@ -1,23 +1,10 @@
 package path
 
 import (
-	"slices"
-
 	"phratry/api"
+	"phratry/hold"
 	"phratry/term"
 )
-
-// missing: is the store not there?
-func missing(s *term.Store) bool {
-	_, e := s.List()
-	return e != api.OK
-}
-
-// has: is there a term of that number?
-func has(s *term.Store, n int) bool {
-	_, ok := s.Get(n)
-	return ok
-}
 
 // afterPath is the secret of a path behind another one.
 func afterPath(secret int) api.Term {
@@ -51,11 +38,8 @@ func origin(s *term.Store, pub int) (key, secret int) {
 	return p.A, k.A
 }
 
-// maker makes a term, as a store does.
-type maker func(api.Term) (int, api.Errno)
-
 // secrets is the seed, and so many behind it.
-func secrets(put maker, seed, many int) ([]int, api.Errno) {
+func secrets(put hold.Maker, seed, many int) ([]int, api.Errno) {
 	l := []int{seed}
 	for range many {
 		n, e := put(afterPath(l[len(l)-1]))
@@ -68,7 +52,7 @@ func secrets(put maker, seed, many int) ([]int, api.Errno) {
 }
 
 // keyPair is the key of a node, of its path's secret, and its public key.
-func keyPair(put maker, secret int) ([2]int, api.Errno) {
+func keyPair(put hold.Maker, secret int) ([2]int, api.Errno) {
 	key, e := put(nodeKey(secret))
 	if e != api.OK {
 		return [2]int{}, e
@@ -78,40 +62,4 @@ func keyPair(put maker, secret int) ([2]int, api.Errno) {
 		return [2]int{}, e
 	}
 	return [2]int{key, pub}, api.OK
-}
-
-// mostMade: no call of this package makes so many terms.
-const mostMade = 64
-
-// allOrNone lets a closure make terms; where the store's room is short, only if
-// there is enough, for a call with an error leaves the store as it was. (One
-// without any room is left so anyhow.)
-func allOrNone[T any](s *term.Store, call func(maker) (T, api.Errno)) (T, api.Errno) {
-	if room := api.MaxTerms - s.Len(); room > 0 && room < mostMade {
-		if none, e := call(rehearsal(s)); e != api.OK {
-			return none, e
-		}
-	}
-	return call(s.Make)
-}
-
-// rehearsal makes terms just as the store would, and leaves it as it is: what it lacks is kept aside.
-func rehearsal(s *term.Store) maker {
-	var aside []api.Term
-	return func(t api.Term) (int, api.Errno) {
-		for n := max(t.A, t.B) + 1; n <= s.Len(); n++ {
-			if there, _ := s.Get(n); there == t {
-				return n, api.OK
-			}
-		}
-		at := slices.Index(aside, t)
-		if at < 0 {
-			at = len(aside)
-			if s.Len()+at >= api.MaxTerms {
-				return 0, api.ErrLimit
-			}
-			aside = append(aside, t)
-		}
-		return s.Len() + 1 + at, api.OK
-	}
 }

@@ -1,0 +1,70 @@
+// Package hold is what the layers over term share: what a store holds, and how a call makes terms, all that it needs or none.
+package hold
+
+import (
+	"phratry/api"
+	"phratry/term"
+	"phratry/tree"
+)
+
+// Missing: is the store not there?
+func Missing(s *term.Store) bool {
+	_, e := s.List()
+	return e != api.OK
+}
+
+// Has: is there a term of that number?
+func Has(s *term.Store, n int) bool {
+	_, ok := s.Get(n)
+	return ok
+}
+
+// Tree: is a tree held (chapter 9)? It may be, and its keys are terms.
+func Tree(s *term.Store, t api.Tree) bool {
+	if tree.Check(t) != api.OK {
+		return false
+	}
+	for _, n := range t.Nodes {
+		if n.Pub != 0 && !Has(s, n.Pub) {
+			return false
+		}
+	}
+	return true
+}
+
+// Maker makes a term, as a store does.
+type Maker func(api.Term) (int, api.Errno)
+
+// AllOrNone lets a closure make terms, at most so many; where the store's room
+// may be too short for them, only if it is not, for a call with an error leaves
+// the store as it was. (One without any room is left so anyhow.)
+func AllOrNone[T any](s *term.Store, most int, call func(Maker) (T, api.Errno)) (T, api.Errno) {
+	if room := api.MaxTerms - s.Len(); room > 0 && room < most {
+		if none, e := call(rehearsal(s)); e != api.OK {
+			return none, e
+		}
+	}
+	return call(s.Make)
+}
+
+// rehearsal makes terms just as the store would, and leaves it as it is: what it lacks is kept aside.
+func rehearsal(s *term.Store) Maker {
+	aside := map[api.Term]int{}
+	return func(t api.Term) (int, api.Errno) {
+		// Parts have lesser numbers than the whole: so those need not be looked at.
+		for n := max(t.A, t.B) + 1; n <= s.Len(); n++ {
+			if there, _ := s.Get(n); there == t {
+				return n, api.OK
+			}
+		}
+		if n, ok := aside[t]; ok {
+			return n, api.OK
+		}
+		n := s.Len() + len(aside) + 1
+		if n > api.MaxTerms {
+			return 0, api.ErrLimit
+		}
+		aside[t] = n
+		return n, api.OK
+	}
+}

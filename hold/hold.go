@@ -47,6 +47,28 @@ func AllOrNone[T any](s *term.Store, most int, call func(Maker) (T, api.Errno)) 
 	return call(s.Make)
 }
 
+// Whole lets a closure make terms by calls that are handed a store, at most so
+// many; where the store's room may be too short for them, it goes through them on
+// a copy first, as AllOrNone does aside. (The closure may be called twice.)
+func Whole[T any](s *term.Store, most int, call func(*term.Store) (T, api.Errno)) (T, api.Errno) {
+	if room := api.MaxTerms - s.Len(); room > 0 && room < most {
+		if none, e := call(copied(s)); e != api.OK {
+			return none, e
+		}
+	}
+	return call(s)
+}
+
+// copied is a store of its own with the same terms, each of the same number.
+func copied(s *term.Store) *term.Store {
+	c := term.New()
+	for n := 1; n <= s.Len(); n++ {
+		t, _ := s.Get(n)
+		c.Make(t)
+	}
+	return c
+}
+
 // rehearsal makes terms just as the store would, and leaves it as it is: what it lacks is kept aside.
 func rehearsal(s *term.Store) Maker {
 	aside := map[api.Term]int{}

@@ -146,3 +146,51 @@ func TestAllOrNoneEnough(t *testing.T) {
 		}
 	}
 }
+
+// rowOf is the row, made in a store that is handed in.
+func rowOf(seen *[][]int) func(*term.Store) ([]int, api.Errno) {
+	return func(s *term.Store) ([]int, api.Errno) { return row(s.Make, many, seen) }
+}
+
+// TestWholeShort: with less room than all that is made needs, nothing is.
+func TestWholeShort(t *testing.T) {
+	t.Parallel()
+	for _, there := range []int{0, 3} {
+		s := started(t, there)
+		for room := many - there - 1; room >= 0; room-- {
+			fill(s, room)
+			l, e := hold.Whole(s, most, rowOf(new([][]int)))
+			if e != api.ErrLimit || l != nil || s.Len() != api.MaxTerms-room {
+				t.Error(there, room, l, e)
+			}
+		}
+	}
+}
+
+// TestWholeEnough: with room for all, it is made; and nobody can tell by the numbers whether it was tried first.
+func TestWholeEnough(t *testing.T) {
+	t.Parallel()
+	for _, c := range []struct{ there, room, calls int }{{0, many, 2}, {0, most, 1}, {1, most - 1, 2}, {many, 0, 1}, {many, 2, 2}} {
+		s := started(t, c.there)
+		fill(s, c.room)
+		var seen [][]int
+		l, e := hold.Whole(s, most, rowOf(&seen))
+		if e != api.OK || len(l) != 2*many+1 || s.Len() != api.MaxTerms-c.room+many-c.there || len(seen) != c.calls {
+			t.Error(c, l, e, len(seen))
+		}
+		for _, x := range seen {
+			if !slices.Equal(x, l) {
+				t.Error(c, seen)
+			}
+		}
+	}
+}
+
+// TestWholeRefused: an error that is not about room is answered as it is.
+func TestWholeRefused(t *testing.T) {
+	s := storeOf(t, 2)
+	n, e := hold.Whole(s, most, func(*term.Store) (int, api.Errno) { return 0, api.ErrKey })
+	if n != 0 || e != api.ErrKey || s.Len() != 2 {
+		t.Error(n, e, s.Len())
+	}
+}

@@ -2,6 +2,7 @@ package group
 
 import (
 	"phratry/api"
+	"phratry/fresh"
 	"phratry/sched"
 	"phratry/term"
 )
@@ -18,7 +19,7 @@ func (a aside) standIn(n int) int {
 
 // tree is a tree with stand-ins for its keys.
 func (a aside) tree(t api.Tree) api.Tree {
-	next := copied(t)
+	next := fresh.Tree(t)
 	for i, n := range next.Nodes {
 		if n.Pub != 0 {
 			next.Nodes[i].Pub = a.standIn(n.Pub)

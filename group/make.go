@@ -4,6 +4,7 @@ import (
 	"slices"
 
 	"phratry/api"
+	"phratry/fresh"
 	"phratry/path"
 	"phratry/sched"
 	"phratry/term"
@@ -64,7 +65,7 @@ func (x change) commit(s *term.Store, st api.State) (api.Commit, api.Errno) {
 	p := x.plan
 	c := api.Commit{
 		Group: st.Group, Epoch: st.Epoch, By: p.By, Member: p.Member, KeyEpoch: p.KeyEpoch,
-		Adds: slices.Clone(p.Adds), Removes: slices.Clone(p.Removes), Next: copied(st.Tree),
+		Adds: slices.Clone(p.Adds), Removes: slices.Clone(p.Removes), Next: fresh.Tree(st.Tree),
 	}
 	var e api.Errno
 	if c.Face, e = s.Make(public(st.Now.Outer)); e != api.OK {

@@ -2,6 +2,7 @@ package group
 
 import (
 	"phratry/api"
+	"phratry/fresh"
 	"phratry/hold"
 	"phratry/index"
 	"phratry/path"
@@ -94,6 +95,6 @@ func welcomed(s *term.Store, c api.Commit, member, joiner int, from api.Key) (ap
 func stateBehind(c api.Commit, member int, keys []api.Key, now api.Secrets) api.State {
 	return api.State{
 		Group: c.Group, Epoch: c.Epoch, Member: member, Leaf: tree.Find(c.Next, member),
-		Tree: copied(c.Next), Keys: keys, Now: now,
+		Tree: fresh.Tree(c.Next), Keys: keys, Now: now,
 	}
 }

@@ -75,12 +75,3 @@ func aheadOfPath(before api.Tree, c api.Commit) (at api.Tree, leaf int, e api.Er
 func sameNode(a, b api.Node) bool {
 	return a.Pub == b.Pub && a.Member == b.Member && a.Epoch == b.Epoch && slices.Equal(a.Unmerged, b.Unmerged)
 }
-
-// copied is a tree in memory of its own.
-func copied(t api.Tree) api.Tree {
-	next := api.Tree{Nodes: slices.Clone(t.Nodes)}
-	for i, n := range next.Nodes {
-		next.Nodes[i].Unmerged = slices.Clone(n.Unmerged)
-	}
-	return next
-}

@@ -1,0 +1,38 @@
+// Package fresh copies what the layers hand on into memory of its own: an answer shares none with what was handed in, nor do two lists within one.
+package fresh
+
+import (
+	"slices"
+
+	"phratry/api"
+)
+
+// List is a list of such copies.
+func List[T any](l []T, one func(T) T) []T {
+	next := slices.Clone(l)
+	for i, x := range next {
+		next[i] = one(x)
+	}
+	return next
+}
+
+func Node(n api.Node) api.Node {
+	n.Unmerged = slices.Clone(n.Unmerged)
+	return n
+}
+
+func Tree(t api.Tree) api.Tree {
+	return api.Tree{Nodes: List(t.Nodes, Node)}
+}
+
+func Commit(c api.Commit) api.Commit {
+	c.Adds, c.Removes = slices.Clone(c.Adds), slices.Clone(c.Removes)
+	c.Seals, c.Joins = slices.Clone(c.Seals), slices.Clone(c.Joins)
+	c.Next = Tree(c.Next)
+	return c
+}
+
+func Log(l api.Log) api.Log {
+	l.Commits = List(l.Commits, Commit)
+	return l
+}

@@ -36,3 +36,13 @@ func Log(l api.Log) api.Log {
 	l.Commits = List(l.Commits, Commit)
 	return l
 }
+
+func Mail(m api.Mail) api.Mail {
+	m.Commit, m.Face.Tree = Commit(m.Commit), Tree(m.Face.Tree)
+	return m
+}
+
+func Box(b api.Box) api.Box {
+	b.Mail = List(b.Mail, Mail)
+	return b
+}

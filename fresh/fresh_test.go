@@ -81,5 +81,7 @@ func TestCopies(t *testing.T) {
 	copies(t, fresh.Tree)
 	copies(t, fresh.Commit)
 	copies(t, fresh.Log)
+	copies(t, fresh.Mail)
+	copies(t, fresh.Box)
 	copies(t, func(l []api.Log) []api.Log { return fresh.List(l, fresh.Log) })
 }

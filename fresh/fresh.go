@@ -46,3 +46,18 @@ func Box(b api.Box) api.Box {
 	b.Mail = List(b.Mail, Mail)
 	return b
 }
+
+func Feed(f api.Feed) api.Feed {
+	f.Commit, f.Mail = Commit(f.Commit), Mail(f.Mail)
+	return f
+}
+
+func Early(e api.Early) api.Early {
+	e.Feed = Feed(e.Feed)
+	return e
+}
+
+func Link(l api.Link) api.Link {
+	l.Queue, l.Early = List(l.Queue, Feed), List(l.Early, Early)
+	return l
+}

@@ -83,5 +83,8 @@ func TestCopies(t *testing.T) {
 	copies(t, fresh.Log)
 	copies(t, fresh.Mail)
 	copies(t, fresh.Box)
+	copies(t, fresh.Feed)
+	copies(t, fresh.Early)
+	copies(t, fresh.Link)
 	copies(t, func(l []api.Log) []api.Log { return fresh.List(l, fresh.Log) })
 }

@@ -52,6 +52,11 @@ func Feed(f api.Feed) api.Feed {
 	return f
 }
 
+func Packet(p api.Packet) api.Packet {
+	p.Feed = Feed(p.Feed)
+	return p
+}
+
 func Early(e api.Early) api.Early {
 	e.Feed = Feed(e.Feed)
 	return e

@@ -84,6 +84,7 @@ func TestCopies(t *testing.T) {
 	copies(t, fresh.Mail)
 	copies(t, fresh.Box)
 	copies(t, fresh.Feed)
+	copies(t, fresh.Packet)
 	copies(t, fresh.Early)
 	copies(t, fresh.Link)
 	copies(t, func(l []api.Log) []api.Log { return fresh.List(l, fresh.Log) })

@@ -5,35 +5,13 @@ import (
 
 	"phratry/api"
 	"phratry/fresh"
+	"phratry/may"
 )
-
-// numbers is how many there are for what a link tells, from 0 on.
-const numbers = 1 << 40
-
-func isServer(n int) bool {
-	return n >= 0 && n < api.MaxServers
-}
-
-func mayBeTold(f api.Feed) bool {
-	return f.Kind >= api.FdCommit && f.Kind <= api.FdNote
-}
-
-// mayBeTaken: may a packet be? An Ack tells how far the other end has come, which may be behind the last number; its
-// Feed is not looked at.
-func mayBeTaken(p api.Packet) bool {
-	if !isServer(p.From) || !isServer(p.To) || p.Seq < 0 {
-		return false
-	}
-	if p.Ack {
-		return p.Seq <= numbers
-	}
-	return p.Seq < numbers && mayBeTold(p.Feed)
-}
 
 // mayBe: may links be?
 func mayBe(l []api.Link) bool {
 	for i, link := range l {
-		if i > 0 && l[i-1].Peer >= link.Peer || !isServer(link.Peer) || !maySend(link) || !mayExpect(link) {
+		if i > 0 && l[i-1].Peer >= link.Peer || !may.Server(link.Peer) || !maySend(link) || !mayExpect(link) {
 			return false
 		}
 	}
@@ -41,11 +19,11 @@ func mayBe(l []api.Link) bool {
 }
 
 func maySend(link api.Link) bool {
-	if link.Next < 0 || link.Next > numbers || len(link.Queue) > api.MaxPending || len(link.Queue) > link.Next {
+	if link.Next < 0 || link.Next > may.Numbers || len(link.Queue) > api.MaxPending || len(link.Queue) > link.Next {
 		return false
 	}
 	for _, f := range link.Queue {
-		if !mayBeTold(f) {
+		if !may.Feed(f) {
 			return false
 		}
 	}
@@ -53,12 +31,12 @@ func maySend(link api.Link) bool {
 }
 
 func mayExpect(link api.Link) bool {
-	if link.Expect < 0 || link.Expect > numbers || len(link.Early) > api.MaxPending {
+	if link.Expect < 0 || link.Expect > may.Numbers || len(link.Early) > api.MaxPending {
 		return false
 	}
 	above := link.Expect
 	for _, e := range link.Early {
-		if e.Seq <= above || e.Seq >= numbers || !mayBeTold(e.Feed) {
+		if e.Seq <= above || e.Seq >= may.Numbers || !may.Feed(e.Feed) {
 			return false
 		}
 		above = e.Seq

@@ -32,13 +32,39 @@ func Commit(c api.Commit) api.Commit {
 	return c
 }
 
+func Face(f api.Face) api.Face {
+	f.Tree = Tree(f.Tree)
+	return f
+}
+
+func State(st api.State) api.State {
+	st.Tree, st.Keys = Tree(st.Tree), slices.Clone(st.Keys)
+	return st
+}
+
+func Pending(p api.Pending) api.Pending {
+	return api.Pending{Commit: Commit(p.Commit), State: State(p.State)}
+}
+
+func Request(r api.Request) api.Request {
+	r.Commit = Commit(r.Commit)
+	return r
+}
+
+func Device(d api.Device) api.Device {
+	d.Past, d.States, d.Waits = slices.Clone(d.Past), List(d.States, State), List(d.Waits, Pending)
+	d.Outbox, d.Cards = List(d.Outbox, Request), slices.Clone(d.Cards)
+	d.Faces, d.Inbox = List(d.Faces, Face), slices.Clone(d.Inbox)
+	return d
+}
+
 func Log(l api.Log) api.Log {
 	l.Commits = List(l.Commits, Commit)
 	return l
 }
 
 func Mail(m api.Mail) api.Mail {
-	m.Commit, m.Face.Tree = Commit(m.Commit), Tree(m.Face.Tree)
+	m.Commit, m.Face = Commit(m.Commit), Face(m.Face)
 	return m
 }
 

@@ -4,7 +4,6 @@ import (
 	"phratry/api"
 	"phratry/hold"
 	"phratry/term"
-	"phratry/tree"
 )
 
 // planMayBe leaves Entry out: what that may be hangs on the call.
@@ -25,18 +24,6 @@ func planMayBe(s *term.Store, p Plan) bool {
 
 // hasOthers: is anybody but the maker to come in or go out?
 func hasOthers(p Plan) bool { return len(p.Adds) > 0 || len(p.Removes) > 0 }
-
-func stateMayBe(s *term.Store, st api.State) bool {
-	if !hold.Tree(s, st.Tree) || st.Epoch < 0 || st.Leaf < 0 || tree.Find(st.Tree, st.Member) != st.Leaf {
-		return false
-	}
-	for _, k := range st.Keys {
-		if !hold.Has(s, k.Secret) {
-			return false
-		}
-	}
-	return hold.Has(s, st.Now.Init) && hold.Has(s, st.Now.Outer)
-}
 
 func commitMayBe(s *term.Store, c api.Commit) bool {
 	return hold.Tree(s, c.Next) && hold.Has(s, c.Face) && c.Epoch >= 0

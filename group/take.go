@@ -28,12 +28,12 @@ func followed(s *term.Store, st api.State, c api.Commit, leaf, init int) (api.St
 	// The Face is looked at ahead of what is opened: either is ErrKey, and with a right one there is nothing more to make of
 	// the path, so that what does not open leaves the store as it was.
 	last := lastSecret(s, c.Next, leaf)
-	right := faceIsRight(s, c, func(a aside, context int) (api.Secrets, api.Errno) {
-		row, e := path.Secrets(a.terms, a.standIn(last), 1)
+	right := faceIsRight(s, c, func(a hold.Aside, context int) (api.Secrets, api.Errno) {
+		row, e := path.Secrets(a.Terms, a.StandIn(last), 1)
 		if e != api.OK {
 			return api.Secrets{}, e
 		}
-		return sched.Next(a.terms, a.standIn(init), row[1], context)
+		return sched.Next(a.Terms, a.StandIn(init), row[1], context)
 	})
 	if !right {
 		return api.State{}, api.ErrKey
@@ -68,8 +68,8 @@ func lastSecret(s *term.Store, t api.Tree, leaf int) int {
 // welcomed is the epoch of a commit as one has it who was handed its Joiner, and the secret of a node.
 func welcomed(s *term.Store, c api.Commit, member, joiner int, from api.Key) (api.State, api.Errno) {
 	// The Face is looked at first, as a member does who follows.
-	right := faceIsRight(s, c, func(a aside, context int) (api.Secrets, api.Errno) {
-		return sched.From(a.terms, a.standIn(joiner), context)
+	right := faceIsRight(s, c, func(a hold.Aside, context int) (api.Secrets, api.Errno) {
+		return sched.From(a.Terms, a.StandIn(joiner), context)
 	})
 	if !right {
 		return api.State{}, api.ErrKey

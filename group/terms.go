@@ -2,6 +2,7 @@ package group
 
 import (
 	"phratry/api"
+	"phratry/hold"
 	"phratry/term"
 )
 
@@ -18,21 +19,13 @@ func sealedPair(s *term.Store, with, a, b int) (int, api.Errno) {
 	return s.Make(sealed(with, inside))
 }
 
-// opened is what a seal has in it, if a secret opens it: that of the public key with which it is sealed, or, if it is
-// sealed with no public key, the key itself.
+// opened is what a seal has in it, if a secret opens it.
 func opened(s *term.Store, seal, secret int) (int, bool) {
-	t, _ := s.Get(seal)
-	if t.Kind != api.TmSeal {
+	opener, inside, ok := hold.Seal(s, seal)
+	if !ok || opener != secret {
 		return 0, false
 	}
-	opener := t.A
-	if key, _ := s.Get(t.A); key.Kind == api.TmPub {
-		opener = key.A
-	}
-	if opener != secret {
-		return 0, false
-	}
-	return t.B, true
+	return inside, true
 }
 
 // openedPair is the two terms that a seal has in it, if a secret opens it.

@@ -1,8 +1,7 @@
 package group
 
 import (
-	"slices"
-
+	"phratry/alike"
 	"phratry/api"
 	"phratry/tree"
 )
@@ -59,7 +58,7 @@ func comesOf(before api.Tree, c api.Commit) bool {
 		pubs = append(pubs, c.Next.Nodes[x].Pub)
 	}
 	next, e := tree.SetPath(at, leaf, c.KeyEpoch, c.Next.Nodes[2*leaf].Pub, pubs)
-	return e == api.OK && slices.EqualFunc(next.Nodes, c.Next.Nodes, sameNode)
+	return e == api.OK && alike.Tree(next, c.Next)
 }
 
 // aheadOfPath is a tree with all who come in and go out by a commit, and the maker's leaf; -1: it has none.
@@ -70,8 +69,4 @@ func aheadOfPath(before api.Tree, c api.Commit) (at api.Tree, leaf int, e api.Er
 	}
 	at, _, e = comeAndGo(before, c.Adds, c.Removes)
 	return at, tree.Find(at, c.Member), e
-}
-
-func sameNode(a, b api.Node) bool {
-	return a.Pub == b.Pub && a.Member == b.Member && a.Epoch == b.Epoch && slices.Equal(a.Unmerged, b.Unmerged)
 }

@@ -1,10 +1,9 @@
-// Package hold is what the layers over term share: what a store holds, and how a call makes terms, all that it needs or none.
+// Package hold is what the layers over term share: what a store holds, what may be by that, and how a call makes terms, all that it needs or none.
 package hold
 
 import (
 	"phratry/api"
 	"phratry/term"
-	"phratry/tree"
 )
 
 // Missing: is the store not there?
@@ -17,19 +16,6 @@ func Missing(s *term.Store) bool {
 func Has(s *term.Store, n int) bool {
 	_, ok := s.Get(n)
 	return ok
-}
-
-// Tree: is a tree held (chapter 9)? It may be, and its keys are terms.
-func Tree(s *term.Store, t api.Tree) bool {
-	if tree.Check(t) != api.OK {
-		return false
-	}
-	for _, n := range t.Nodes {
-		if n.Pub != 0 && !Has(s, n.Pub) {
-			return false
-		}
-	}
-	return true
 }
 
 // Maker makes a term, as a store does.
@@ -55,6 +41,18 @@ func Whole[T any](s *term.Store, most int, call func(*term.Store) (T, api.Errno)
 		if none, e := call(copied(s)); e != api.OK {
 			return none, e
 		}
+	}
+	return call(s)
+}
+
+// Careful lets a closure do what Whole does, where it may end in another error, too, when it has made terms: unless it is
+// sure that it does not, it is tried on a copy first.
+func Careful[T any](s *term.Store, sure bool, most int, call func(*term.Store) (T, api.Errno)) (T, api.Errno) {
+	if sure {
+		return Whole(s, most, call)
+	}
+	if none, e := call(copied(s)); e != api.OK {
+		return none, e
 	}
 	return call(s)
 }

@@ -1,4 +1,4 @@
-// Package may is what the layers that tell one another over the net share: which servers, feeds and packets may be (chapter 17).
+// Package may is what layers share that keep no terms: which numbers may be (DOC.md, Numbers), and which feeds and packets (chapter 17).
 package may
 
 import "phratry/api"

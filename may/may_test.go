@@ -23,6 +23,15 @@ func TestServer(t *testing.T) {
 	}
 }
 
+// TestNumbers: users, devices and conversations about their bounds.
+func TestNumbers(t *testing.T) {
+	for _, n := range append(edges(), 62, 63, 64, 65, 510, 511, 512, 513) {
+		if may.User(n) != (n >= 0 && n <= 63) || may.Conversation(n) != (n >= 0 && n <= 63) || may.Device(n) != (n >= 0 && n <= 511) {
+			t.Error(n)
+		}
+	}
+}
+
 func TestFeed(t *testing.T) {
 	for kind := range 256 {
 		f := api.Feed{Kind: api.FeedKind(kind), To: math.MinInt, From: math.MaxInt}

@@ -5,21 +5,15 @@ import (
 
 	"phratry/api"
 	"phratry/fresh"
+	"phratry/may"
 )
 
-const (
-	devices  = api.MaxServers * api.MaxUsers * api.MaxDevices
-	mostDone = 1 << 40
-)
-
-func isDevice(n int) bool {
-	return n >= 0 && n < devices
-}
+const mostDone = 1 << 40
 
 // mayBe: may boxes be?
 func mayBe(l []api.Box) bool {
 	for i, b := range l {
-		if i > 0 && l[i-1].Device >= b.Device || !isDevice(b.Device) || b.Done < 0 || b.Done > mostDone {
+		if i > 0 && l[i-1].Device >= b.Device || !may.Device(b.Device) || b.Done < 0 || b.Done > mostDone {
 			return false
 		}
 	}

@@ -4,12 +4,13 @@ import (
 	"sort"
 
 	"phratry/api"
+	"phratry/may"
 )
 
 // mayBe: may cards be?
 func mayBe(l []api.Card) bool {
 	for i, c := range l {
-		if i > 0 && l[i-1].User >= c.User || !isUser(c.User) || c.Epoch < 0 || c.Pub <= 0 {
+		if i > 0 && l[i-1].User >= c.User || !may.User(c.User) || c.Epoch < 0 || c.Pub <= 0 {
 			return false
 		}
 	}

@@ -65,8 +65,26 @@ func (h *hand) compose(x draft, kind api.RequestKind) api.Errno {
 	if e != api.OK {
 		return e
 	}
+	h.waitFor(p, kind)
+	return api.OK
+}
+
+// waitFor: the device waits for a commit that it has made, and asks for it.
+func (h *hand) waitFor(p api.Pending, kind api.RequestKind) {
 	h.own.Waits = with(h.own.Waits, groupOfWait, p)
 	h.ask(api.Request{Kind: kind, Commit: fresh.Commit(p.Commit)})
+}
+
+// refreshes composes one in each of some conversations.
+func (h *hand) refreshes(groups []int) api.Errno {
+	for _, g := range groups {
+		st, _ := stateOf(h.own, g)
+		p, e := h.made(h.terms, h.next(st, nil, nil))
+		if e != api.OK {
+			return e
+		}
+		h.waitFor(p, api.RqCommit)
+	}
 	return api.OK
 }
 

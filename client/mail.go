@@ -33,27 +33,33 @@ func takers() [api.MlNote + 1]func(*hand, api.Mail) api.Errno {
 
 func (h *hand) takeCommit(m api.Mail) (e api.Errno) {
 	c := m.Commit
-	if c.Group == accountOf(h.own) {
+	p, waits := waitOf(h.own, c.Group)
+	mine := c.Group == accountOf(h.own)
+	switch {
+	case waits && alike.Commit(p.Commit, c) && mine:
+		e = h.keepAccount(p.State, api.OK)
+	case waits && alike.Commit(p.Commit, c):
+		// In whatever group, another user's account too: the device has made the state itself.
+		e = h.keep(p.State, api.OK)
+	case mine:
 		e = h.inAccount(c)
-	} else if c.Group >= 0 {
+	case c.Group >= 0:
 		e = h.inConversation(c)
 	}
 	if e != api.OK {
 		return e
 	}
-	if p, waits := waitOf(h.own, c.Group); waits && c.Epoch >= p.Commit.Epoch {
+	if waits && c.Epoch >= p.Commit.Epoch {
 		h.waitNoMore(c.Group)
 	}
 	return api.OK
 }
 
+// inAccount takes a commit of its account for which the device does not wait.
 func (h *hand) inAccount(c api.Commit) api.Errno {
 	st, held := stateOf(h.own, c.Group)
-	p, waits := waitOf(h.own, c.Group)
 	me := h.own.Number
 	switch {
-	case waits && alike.Commit(p.Commit, c):
-		return h.keepAccount(p.State, api.OK)
 	case held && st.Epoch+1 == c.Epoch:
 		if goesOut(c, me) {
 			h.goOut()
@@ -66,12 +72,10 @@ func (h *hand) inAccount(c api.Commit) api.Errno {
 	return api.OK
 }
 
+// inConversation takes a commit of a conversation for which the device does not wait.
 func (h *hand) inConversation(c api.Commit) api.Errno {
 	st, held := stateOf(h.own, c.Group)
-	p, waits := waitOf(h.own, c.Group)
 	switch {
-	case waits && alike.Commit(p.Commit, c):
-		return h.keep(p.State, api.OK)
 	case held && st.Epoch+1 == c.Epoch:
 		return h.goOn(st, c)
 	case !held:

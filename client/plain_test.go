@@ -280,7 +280,7 @@ func (r *reading) takeCommit(c api.Commit) api.Errno {
 // comes: the device has a new state.
 func (r *reading) comes(st api.State) {
 	r.states[st.Group] = st
-	if st.Group < 0 {
+	if st.Group == r.home() {
 		r.d.In = true
 		r.past[st.Epoch] = st.Now.Export
 	}

@@ -1,6 +1,7 @@
 package client_test
 
 import (
+	"cmp"
 	"math"
 	"slices"
 	"testing"
@@ -42,7 +43,7 @@ func withState(d api.Device, st api.State) api.Device {
 		}
 	}
 	d.States = append(d.States, st)
-	slices.SortFunc(d.States, func(x, y api.State) int { return x.Group - y.Group })
+	slices.SortFunc(d.States, func(x, y api.State) int { return cmp.Compare(x.Group, y.Group) })
 	return d
 }
 
@@ -285,6 +286,34 @@ func TestP194Foreign(t *testing.T) {
 	h.passes(h.a, "no user's", commitMail(api.Commit{Group: math.MinInt, Epoch: 1, Removes: []int{8, 1}}))
 }
 
+// TestP197Settles: whoever takes the commit for which it waits has the state that it had made, in whatever group.
+func TestP197Settles(t *testing.T) {
+	h := newHouse(t)
+	_, pub := h.fresh(17, 40)
+	o := h.do(h.o, client.Op{Kind: api.StLink, A: 17, Pub: pub}, 41)
+	foreign := o.Waits[0]
+	for _, group := range []int{-3, -1, -64, -65, math.MinInt, 7, 64, math.MaxInt} {
+		p := copied(foreign)
+		p.Commit.Group, p.State.Group = group, group
+		for what, d := range map[string]api.Device{"beside others": copied(h.a), "alone": {Number: 10}, "out of its account": {Number: 10, First: pub}} {
+			d.Waits = append(copied(d.Waits), p, api.Pending{Commit: api.Commit{Group: -7, Epoch: 1}})
+			slices.SortFunc(d.Waits, func(x, y api.Pending) int { return cmp.Compare(x.Commit.Group, y.Commit.Group) })
+			want := withState(d, p.State)
+			want.Waits, want.Cursor = []api.Pending{{Commit: api.Commit{Group: -7, Epoch: 1}}}, d.Cursor+1
+			same(t, tell(group)+" "+what, h.takes(d, commitMail(p.Commit)), want)
+			// One that is not quite the same, and is behind it, does nothing but end the wait.
+			if other := copied(p.Commit); group < 0 {
+				other.Own++
+				want.States = d.States
+				same(t, tell(group)+" another one, "+what, h.takes(d, commitMail(other)), want)
+				other.Epoch--
+				want.Waits = d.Waits
+				same(t, tell(group)+" one ahead, "+what, h.takes(d, commitMail(other)), want)
+			}
+		}
+	}
+}
+
 // TestP194Conversation: another user's commit, an own device's, at other epochs.
 func TestP194Conversation(t *testing.T) {
 	h := newHouse(t)
@@ -508,7 +537,7 @@ func TestP194Faces(t *testing.T) {
 		d = h.takes(d, faceMail(f))
 		if c.kept {
 			want = append(slices.DeleteFunc(want, func(x api.Face) bool { return x.Group == c.g }), f)
-			slices.SortFunc(want, func(x, y api.Face) int { return x.Group - y.Group })
+			slices.SortFunc(want, func(x, y api.Face) int { return cmp.Compare(x.Group, y.Group) })
 		}
 		same(t, tell(c), d.Faces, want)
 	}

@@ -326,6 +326,7 @@ func TestP194Conversation(t *testing.T) {
 	same(t, "followed", h.takes(h.a, commitMail(c)), want)
 	h.passes(h.a, "the epoch it is at", commitMail(h.invited))
 	h.passes(h.a, "one that was", commitMail(h.created))
+	h.passes(h.a, "one with nothing in it", commitMail(api.Commit{}))
 	late := copied(c)
 	late.Epoch = 3
 	h.passes(h.a, "too late", commitMail(late))

@@ -92,3 +92,9 @@ func Link(l api.Link) api.Link {
 	l.Queue, l.Early = List(l.Queue, Feed), List(l.Early, Early)
 	return l
 }
+
+func Server(s api.Server) api.Server {
+	s.Logs, s.Boxes = List(s.Logs, Log), List(s.Boxes, Box)
+	s.Cards, s.Links = slices.Clone(s.Cards), List(s.Links, Link)
+	return s
+}

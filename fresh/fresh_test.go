@@ -92,5 +92,6 @@ func TestCopies(t *testing.T) {
 	copies(t, fresh.Packet)
 	copies(t, fresh.Early)
 	copies(t, fresh.Link)
+	copies(t, fresh.Server)
 	copies(t, func(l []api.Log) []api.Log { return fresh.List(l, fresh.Log) })
 }

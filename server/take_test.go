@@ -6,6 +6,7 @@ import (
 	"testing"
 
 	"phratry/api"
+	"phratry/server"
 )
 
 // TestP203Commit: a commit that is told is decided; who sent it is told no, wherever it is at home.
@@ -243,6 +244,32 @@ func TestP203Arg(t *testing.T) {
 	take(t, s, data(0, 1, most-1, good))
 	s = linked(s, 0, func(l *api.Link) { l.Next = most })
 	take(t, s, ack(0, 1, most))
+}
+
+// TestP203ArgAt0: at the server 0, too, where whatever is nobody's could seem to be at home.
+func TestP203ArgAt0(t *testing.T) {
+	s := ask(t, newServer(0), 0, opens(commit(-1, 0, 0)))
+	for _, n := range []int{-1, -4, -8, -32, 512, 544, 1 << 20, math.MinInt, math.MaxInt} {
+		for _, f := range []api.Feed{toldDevice(n, noMail(1, 1)), toldUser(n, noMail(1, 1)), toldAsk(n, 0), toldAsk(0, n), toldFace(0, n), toldNote(note(0, 0), n), toldCommit(n, commit(0, 0, 0))} {
+			untaken(t, "what is told", s, data(2, 0, 0, f), api.ErrArg)
+		}
+		unasked(t, "device", s, n, asks(0), api.ErrArg)
+		unasked(t, "device", s, n, opens(commit(-1, 0, 0)), api.ErrArg)
+		unasked(t, "user", s, 0, asks(n), api.ErrArg)
+		s.Boxes = append(s.Boxes, box(n, 0))
+		if e := server.Check(s); e != api.ErrArg {
+			t.Error("a box", n, e)
+		}
+		s.Boxes = s.Boxes[:1]
+	}
+	for _, g := range []int{-65, -68, -69, 64, 68, math.MinInt, math.MaxInt} {
+		for _, f := range []api.Feed{toldFace(g, 0), toldNote(note(g, 0), 0), toldCommit(0, commit(g, 0, 0))} {
+			untaken(t, "what is told", s, data(2, 0, 0, f), api.ErrArg)
+		}
+		unasked(t, "group", s, 0, faces(g), api.ErrArg)
+		unasked(t, "group", s, 0, notes(note(g, 0)), api.ErrArg)
+		unasked(t, "group", s, 0, commits(commit(g, 0, 0)), api.ErrArg)
+	}
 }
 
 // TestP203Fields: fields that a kind has no name for are not looked at.
